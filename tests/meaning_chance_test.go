@@ -227,8 +227,8 @@ func (r *speaker) block(sort string, d int) nd {
 	case 8:
 		return nCall(r.of("g", "g", "g", "throw", "error", "exit", "hd"), r.say(sort, d))
 	}
-	if r.Intn(8) == 0 {
-		return []nd{nSend(r.say(sort, d), r.say(sort, d)), nReceive(0), nCall("self"), nRemote("x:y", r.say(sort, d))}[r.Intn(4)]
+	if r.Intn(5) == 0 {
+		return []nd{nSend(r.say(sort, d), r.say(sort, d)), r.receive(sort, d), nCall("self"), nRemote("x:y", r.say(sort, d))}[r.Intn(4)]
 	}
 	return nRemote("m:f", r.say(sort, d), r.say("int", d))
 }
@@ -263,6 +263,22 @@ func (r *speaker) try(sort string, d int) nd {
 		kids = append(kids, r.body("atom", d))
 	}
 	return nTry(n, kids...)
+}
+
+func (r *speaker) receive(sort string, d int) nd {
+	n := r.Intn(2)
+	var wait []nd
+	if n == 1 {
+		wait = []nd{r.apart(func() nd { return r.say("int", d) })}
+	}
+	var clauses []nd
+	if r.Intn(3) > 0 {
+		clauses = r.apartAll(1, sort, d)
+	}
+	if n == 1 {
+		wait = append(wait, r.body(sort, d))
+	}
+	return nReceive(n, slices.Concat(clauses, wait)...)
 }
 
 // clauses is clauses of which the last one mostly takes all.
