@@ -122,8 +122,12 @@ func packs(t *testing.T, code impl.Code, want string) {
 	if s != want || wrong != impl.OK {
 		t.Fatalf("CodePack: code %d\n%q, not\n%q\nof %s", wrong, s, want, listing(code))
 	}
-	if back, wrong := impl.CodeLoad(s); wrong != impl.OK || !sameCode(back, code) {
+	back, wrong := impl.CodeLoad(s)
+	if wrong != impl.OK || !sameCode(back, code) {
 		t.Fatalf("CodeLoad: code %d, at %s", wrong, unlike(back, code))
+	}
+	if again, wrong := impl.CodePack(back); again != s || wrong != impl.OK {
+		t.Fatalf("CodePack of what was loaded: code %d\n%q, not\n%q", wrong, again, s)
 	}
 }
 
@@ -157,6 +161,9 @@ func TestBytesOfSmallCodeP9(t *testing.T) {
 	s := "SK\x01T\x08" + smallTexts + "L\x11" + smallTerms + "F\x12" + smallFns + "R\x05" + smallRefs + "I\x12" + smallIns
 	packs(t, smallCode(), s+sumOf(s))
 	packs(t, impl.Code{Name: "m"}, "SK\x01T\x03\x01\x01mL\x01\x00F\x02\x00\x00R\x01\x00I\x01\x00"+sumOf("SK\x01T\x03\x01\x01mL\x01\x00F\x02\x00\x00R\x01\x00I\x01\x00"))
+	same := codeOf("m/0 0: Fail 0 m\nm/1 0: Fail 0 b") // texts that are met in more than one table
+	same.Refers = []impl.CodeRef{{Node: 2, Name: "b"}, {Node: 3, Name: "m"}}
+	packs(t, same, imageOf("\x02\x01m\x01b", "\x00", "\x00\x02\x01\x00\x00\x00\x00\x00\x00\x01\x01\x01\x00\x01\x00\x00", "\x02\x02\x01\x00\x03\x00\x00", "\x02\x26\x00\x00\x26\x00\x01"))
 	if imageOf(smallTexts, smallTerms, smallFns, smallRefs, smallIns) != s+sumOf(s) || imageByWords(smallCode()) != s+sumOf(s) {
 		t.Error("helpers")
 	}
@@ -195,6 +202,7 @@ func TestNumbersInPiecesP9(t *testing.T) {
 
 // P9: what modules become is packed as the words say, loaded, and packed again.
 func TestBytesOfCompiledCodeP9(t *testing.T) {
+	t.Parallel()
 	r := newChance(24)
 	for _, m := range spokenModules(t, 600) {
 		code := compiled(t, flat(m))
@@ -246,6 +254,7 @@ func onlyImages(t *testing.T, s string) bool {
 
 // P9: each byte of an image changed to each other one, with the sum that was there and with a right one; images cut off and gone on with.
 func TestChangedImagesP9(t *testing.T) {
+	t.Parallel()
 	codes := []impl.Code{smallCode(), compiled(t, meant(t, "f([X | Y]) when X > 1 -> <<Y:4>>; f(_) -> fun() -> fun f/1 end.")), {Name: "m"}}
 	taken := 0
 	for _, code := range codes {

@@ -80,6 +80,7 @@ func wrapped(e nd, wrap func(e nd) nd) []impl.Node {
 
 // P7: what becomes of the greatest trees is sound.
 func TestCodeOfGreatTreesP7(t *testing.T) {
+	t.Parallel()
 	one := nInt(1)
 	vars := []nd{nVar("A"), nVar("B"), nVar("C"), nVar("D")}
 	wraps := map[string]func(e nd) nd{

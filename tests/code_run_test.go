@@ -469,6 +469,7 @@ func (r *runner) apply(v impl.Term, args []impl.Term) (impl.Term, *upward) {
 
 // P7: what Compile makes, run by the words of 5.1, answers what Eval answers, step by step.
 func TestCompiledCodeRunsAsEvalP7(t *testing.T) {
+	t.Parallel()
 	r := newChance(25)
 	classes := map[int]int{}
 	for _, m := range spokenModules(t, 2000) {

@@ -385,6 +385,7 @@ func heldAgainstWords(t *testing.T, what string, tree []impl.Node) impl.Code {
 
 // P7: what modules by chance become.
 func TestCompileHeldAgainstWordsP7(t *testing.T) {
+	t.Parallel()
 	used := map[int]int{}
 	for _, m := range spokenModules(t, 2500) {
 		for _, n := range heldAgainstWords(t, textByForms(m), flat(m)).Ins {

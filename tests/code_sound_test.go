@@ -115,6 +115,7 @@ func TestTablesOfSoundCode(t *testing.T) {
 			looksSo(t, fmt.Sprint("arity of a refer ", n), is, func(c *impl.Code) { c.Refers = []impl.CodeRef{{Node: 9, Name: "a", Arity: n}} })
 		}
 	}
+	fitTables(t, "a refer at node 0", "", func(c *impl.Code) { c.Refers = []impl.CodeRef{{Name: "a"}} })
 	for n, is := range map[int]bool{4: true, 1999: true, 2000: false, -1: false} {
 		looksSo(t, fmt.Sprint("node of a refer ", n), is, func(c *impl.Code) { c.Refers = []impl.CodeRef{{Node: n, Name: "a"}} })
 	}
@@ -141,6 +142,7 @@ func TestPlacesOfBlocks(t *testing.T) {
 		}
 	}
 	wrongTables(t, "no blocks", manyBlocks, func(c *impl.Code) { c.Fns = nil })
+	wrongTables(t, "no blocks, one instruction", manyBlocks, func(c *impl.Code) { c.Fns, c.Ins = nil, c.Ins[:1] })
 	wrongTables(t, "no instructions", manyBlocks, func(c *impl.Code) { c.Ins = nil })
 	wrongTables(t, "one too few", manyBlocks, func(c *impl.Code) { c.Ins = c.Ins[:3] })
 	fitTables(t, "one more", manyBlocks, func(c *impl.Code) { c.Ins = append(c.Ins, c.Ins[0]) })
@@ -515,6 +517,7 @@ func (r *speaker) spoiltCode(code impl.Code) impl.Code {
 
 // Compiled code that is spoilt, once or twice, is found as wrong as the second reading finds it.
 func TestVerifyOfSpoiltCode(t *testing.T) {
+	t.Parallel()
 	r := &speaker{chance: newChance(22)}
 	seen := map[string]int{}
 	look := func(code impl.Code) {
@@ -579,6 +582,7 @@ func (r *speaker) anyCode() impl.Code {
 }
 
 func TestVerifyOfAnyCode(t *testing.T) {
+	t.Parallel()
 	r := &speaker{chance: newChance(23)}
 	sounds := 0
 	for range 100000 {

@@ -427,6 +427,7 @@ func spokenModules(t *testing.T, n int) []nd {
 
 // P5 and P6: what Lint passes, run with many arguments, answers as the second reading does, which panics where a variable is not bound.
 func TestEvalHeldAgainstWordsP6(t *testing.T) {
+	t.Parallel()
 	r := newChance(5)
 	classes := map[int]int{}
 	steps := 0
@@ -507,6 +508,7 @@ func (r *speaker) spoilt(m nd) nd {
 
 // P5: the first fault of modules that are spoilt, and that some modules by chance have, is as the second reading tells it.
 func TestLintHeldAgainstWaysP5(t *testing.T) {
+	t.Parallel()
 	r := &speaker{chance: newChance(7)}
 	codes := map[int]int{}
 	held := func(m nd) {

@@ -18,6 +18,7 @@ var endless = []string{
 }
 
 func TestFunctionsThatNeverEndP6(t *testing.T) {
+	t.Parallel()
 	for _, forms := range endless {
 		tree := meant(t, forms)
 		begun := time.Now()

@@ -26,6 +26,7 @@ func TestFunctionsThatAreThereP6(t *testing.T) {
 
 // Each function of one argument or more, with arguments of every Kind at every place.
 func TestFunctionsHeldAgainstWordsP6(t *testing.T) {
+	t.Parallel()
 	values := []impl.Term{num(1), num(0), num(2), num(-1), atom("a"), ref(1), fun(3, num(1)), pid(2), tuple(), tuple(num(5), atom("x")), dict(), dict(num(1), num(2), atom("a"), num(3)), list(), list(num(1), num(255)), list(atom("a")), bin(""), bin("ab"), bin("\x83a\x07")}
 	for _, s := range strings.Fields(guardNames + plainNames + processNames) {
 		name, number, _ := strings.Cut(s, "/")

@@ -412,6 +412,7 @@ func heldAgainstGrammar(t *testing.T, g *grammar, text string) bool {
 }
 
 func TestFaultsHeldAgainstGrammarP4(t *testing.T) {
+	t.Parallel()
 	g := newGrammar()
 	r := newChance(7)
 	right := 0
@@ -434,6 +435,7 @@ func TestFaultsHeldAgainstGrammarP4(t *testing.T) {
 }
 
 func TestFaultsOfAllWordsP4(t *testing.T) {
+	t.Parallel()
 	g := newGrammar()
 	words := append(strings.Fields(`( ) [ ] { } #{ => := << >> , ; . | || <- -> : / + - * ++ == /= =:= =/= < =< > >= = ! a X 1 "s" int binary bits 01 $`), reserved...)
 	for _, ahead := range []string{"", "module", "module m", "module m.", "module m. export", "module m. export f", "module m. export f/1", "module m. f", "module m. f(", "module m. f(X", "module m. f(X)", "module m. f(X) when a", "module m. f(X) -> ",

@@ -170,6 +170,7 @@ func respaced(r chance, text string) string {
 }
 
 func TestBetweenWordsP4(t *testing.T) {
+	t.Parallel()
 	r := newChance(11)
 	for _, m := range anyModules(1500) {
 		text := respaced(r, textByForms(m))

@@ -454,6 +454,7 @@ func movedTree(r chance, tree []impl.Node, i int) []impl.Node {
 }
 
 func TestTreesHeldAgainstForms(t *testing.T) {
+	t.Parallel()
 	forms := compiledForms()
 	r := newChance(5)
 	right, wrong := 0, 0

@@ -48,6 +48,7 @@ func TestPackOfEachKind(t *testing.T) {
 
 // P1: TermUnpack reads what TermPack writes, and nothing of it spoilt but what is another term's.
 func TestUnpackOfPackedP1(t *testing.T) {
+	t.Parallel()
 	for _, x := range anyTerms(700) {
 		s, code := impl.TermPack(x)
 		if code != impl.OK {
