@@ -8,22 +8,25 @@ import (
 	"loop.example/g00019/impl"
 )
 
-// runner runs sound code as 5.1 says, by its words, so that what Compile makes can be held against Eval.
+// runner runs sound code as 5.1 and 6 say, by their words: a second reading of Run, against which Eval is held, too.
 type runner struct {
-	code impl.Code
-	fuel int
-	used int
+	code  impl.Code
+	fuel  int
+	used  int
+	depth int         // how many frames there are
+	begun []impl.Call // all blocks that were begun
 }
 
-// runByWords is what a block with a Name answers.
-func runByWords(code impl.Code, name string, args []impl.Term, fuel int) impl.Answer {
+// runByWords is what a block with a Name answers, and the first 200 blocks that it begins.
+func runByWords(code impl.Code, name string, args []impl.Term, fuel int) (impl.Answer, []impl.Call) {
 	r := &runner{code: code, fuel: fuel}
 	at := slices.IndexFunc(code.Fns, func(f impl.CodeFn) bool { return f.Name == name && f.Arity == len(args) })
 	v, up := r.block(at, nil, args)
+	calls := r.begun[:min(len(r.begun), 200)]
 	if up != nil {
-		return impl.Answer{Class: up.class, V: up.v, Used: r.used}
+		return impl.Answer{Class: up.class, V: up.v, Used: r.used}, calls
 	}
-	return impl.Answer{V: v, Used: r.used}
+	return impl.Answer{V: v, Used: r.used}, calls
 }
 
 func (r *runner) count(n int) *upward {
@@ -49,6 +52,9 @@ func (r *runner) block(k int, held, args []impl.Term) (impl.Term, *upward) {
 	if up := r.count(1); up != nil {
 		return impl.Term{}, up
 	}
+	r.depth++
+	defer func() { r.depth-- }()
+	r.begun = append(r.begun, impl.Call{Name: r.code.Fns[k].Name, Node: r.code.Fns[k].Node, Depth: r.depth})
 	f := &framed{runner: r, slots: slices.Clone(held), stack: slices.Clone(args), at: r.code.Fns[k].At}
 	for len(f.slots) < r.code.Fns[k].Slots {
 		f.slots = append(f.slots, num(0))
@@ -467,7 +473,7 @@ func (r *runner) apply(v impl.Term, args []impl.Term) (impl.Term, *upward) {
 	return impl.Term{}, goesWith("badfun", v)
 }
 
-// P7: what Compile makes, run by the words of 5.1, answers what Eval answers, step by step.
+// P7: what Compile makes, run, answers what Eval answers, step by step; so says the second reading, too.
 func TestCompiledCodeRunsAsEvalP7(t *testing.T) {
 	t.Parallel()
 	r := newChance(25)
@@ -477,11 +483,12 @@ func TestCompiledCodeRunsAsEvalP7(t *testing.T) {
 		code := compiled(t, tree)
 		for range 2 {
 			args := []impl.Term{anyTerm(r.Rand, 2), anyTerm(r.Rand, 2)}
-			for _, fuel := range []int{300, r.Intn(40)} {
+			whole, _ := impl.Eval(tree, "f", args, 300)
+			for _, fuel := range []int{300, whole.Used, max(0, whole.Used-1), r.Intn(40)} {
 				a, wrong := impl.Eval(tree, "f", args, fuel)
-				b := runByWords(code, "f", args, fuel)
+				b := ranAt(t, code, args, fuel)
 				if wrong != impl.OK || !sameAnswer(a, b) {
-					t.Fatalf("%s\nof %v at %d: %s, %d used; its code by the words %s, %d used\n%s", textByForms(m), args, fuel, shown(a), a.Used, shown(b), b.Used, listing(code))
+					t.Fatalf("%s\nof %v at %d: %s, %d used; its code, run, %s, %d used\n%s", textByForms(m), args, fuel, shown(a), a.Used, shown(b), b.Used, listing(code))
 				}
 				classes[a.Class]++
 			}
@@ -515,8 +522,8 @@ func TestProgramsRunAsEvalP7(t *testing.T) {
 		whole, _ := impl.Eval(tree, "f", args, impl.MaxFuel)
 		for fuel := range min(whole.Used, 400) + 2 {
 			a, _ := impl.Eval(tree, "f", args, fuel)
-			if b := runByWords(code, "f", args, fuel); !sameAnswer(a, b) {
-				t.Errorf("%s\nat %d: %s, %d used; its code by the words %s, %d used", forms, fuel, shown(a), a.Used, shown(b), b.Used)
+			if b := ranAt(t, code, args, fuel); !sameAnswer(a, b) {
+				t.Errorf("%s\nat %d: %s, %d used; its code, run, %s, %d used", forms, fuel, shown(a), a.Used, shown(b), b.Used)
 				break
 			}
 		}

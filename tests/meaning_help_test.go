@@ -44,8 +44,10 @@ func evaluated(t *testing.T, tree []impl.Node, args ...impl.Term) impl.Answer {
 }
 
 // heldAtFuels asks for one answer of f at every fuel: below what it used the fuel is out. (Of many fuels it tries the first and the last ones.)
+// What Compile makes of the tree has to answer the same, run (P7).
 func heldAtFuels(t *testing.T, what string, tree []impl.Node, whole impl.Answer, args ...impl.Term) {
 	t.Helper()
+	c := compiled(t, tree)
 	for fuel := range whole.Used + 2 {
 		if fuel > 70 && fuel < whole.Used-3 {
 			continue
@@ -56,6 +58,10 @@ func heldAtFuels(t *testing.T, what string, tree []impl.Node, whole impl.Answer,
 		}
 		if a, code := impl.Eval(tree, "f", args, fuel); code != impl.OK || !sameAnswer(a, want) {
 			t.Errorf("%s\nat a fuel of %d answers %s, %d used, code %d; not %s, %d used", what, fuel, shown(a), a.Used, code, shown(want), want.Used)
+			return
+		}
+		if a, code := impl.Run(c, "f", args, fuel); code != impl.OK || !sameAnswer(a, want) {
+			t.Errorf("%s\nrun at a fuel of %d answers %s, %d used, code %d; not %s, %d used", what, fuel, shown(a), a.Used, code, shown(want), want.Used)
 			return
 		}
 	}
