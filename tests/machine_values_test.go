@@ -133,3 +133,34 @@ func TestElementsAreGoneThroughP8(t *testing.T) {
 		}
 	}
 }
+
+// P8: a list that is added to, while others have it, and with others in its place.
+func TestListsGrowP8(t *testing.T) {
+	// Who has it as it was keeps it so, whoever is added to then.
+	eachFits(t, "Push 1; Add 0; Pick 0; Push 2; Add 0; Pick 0; Push 3; Add 0; Push 4; Add 1; Push 5; Add 2; Push 6; Add 0; Tuple 3; Return", "[] -> {[1, 2, 3, 6], [1, 4], [1, 2, 5]}", "[a] -> {[a, 1, 2, 3, 6], [a, 1, 4], [a, 1, 2, 5]}", "[a, b, c] -> {[a, b, c, 1, 2, 3, 6], [a, b, c, 1, 4], [a, b, c, 1, 2, 5]}")
+	eachFits(t, "Push 1; Add 0; Push 2; Add 0; Push 3; Add 0; Dup; Store 0; Push 4; Add 0; Load 0; Push 5; Add 1; Push 6; Add 0; Load 0; Tuple 3; Return", "[] -> {[1, 2, 3, 4, 6], [1, 2, 3, 5], [1, 2, 3]}")
+	// Another list lies where it lay: its room is not the first one's.
+	again := "Push 1; Add 0; Push 2; Add 0; Push 3; Add 0; Dup; Store 0; Push 4; Add 0; Store 1; "
+	eachFits(t, again+"Load 0; Push 5; Add 0; Load 1; Load 0; Tuple 3; Return", "[] -> {[1, 2, 3, 5], [1, 2, 3, 4], [1, 2, 3]}")
+	eachFits(t, again+"Load 0; Cut 1; Push 5; Add 0; Load 1; Load 0; Tuple 3; Return", "[] -> {[1, 2, 3, 5], [1, 2, 3, 4], [1, 2, 3]}")
+	eachFits(t, again+"Load 0; Untail no 1 1; Drop; Push 5; Add 0; Load 1; Load 0; Tuple 3; Return\nno: Return", "[] -> {[2, 3, 5], [1, 2, 3, 4], [1, 2, 3]}")
+	eachFits(t, "Push 1; Add 0; Push 2; Add 0; Push 3; Add 0; Dup; Store 0; Push 4; Add 0; Dup; Store 1; Cut 0; Load 0; Push 5; Add 0; Load 1; Tuple 2; Return", "[] -> {[1, 2, 3, 5], [1, 2, 3, 4]}")
+	eachFits(t, "Dup; Try on; Push 1; Add 0; Push 2; Add 0; Push 3; Add 0; Push 4; Add 1; Fail 0 oops\non: Drop; Drop; Push 5; Add 0; Push 6; Add 1; Tuple 2; Return", "[] -> {[1, 2, 3, 5], [4, 6]}")
+	// One that is handed to a block.
+	runs(t, "f/1 0: Push 1; Add 0; Push 2; Add 0; Push 3; Add 0; Pick 0; Call 1; Push 4; Add 0; Tuple 2; Return\ng/1 0: Push 7; Add 0; Push 8; Add 0; Return", "{[1, 2, 3, 4], [1, 2, 3, 7, 8]}", 2, list())
+	// Two that grow by turns, one of them in the other.
+	runs(t, "f/1 0: Push []; Pick 0; Push 0\nnext: Next out; Push []; Pick 4; Add 5; Pick 4; Add 1; Pick 4; Add 5; Add 1; Drop; Jump next\nout: Tuple 2; Return", "{[1, 2], [1, [1, 1], 2, [2, 2]]}", 4, list(num(1), num(2)))
+	runs(t, "f/1 0: Push []; Pick 0; Push 0\nnext: Next out; Add 1; Pick 1; Add 1; Jump next\nout: Tuple 2; Return", "{[1, 2], [1, [1], 2, [1, [1], 2]]}", 4, list(num(1), num(2)))
+	// It may be as large as any term, and what was counted ends with it.
+	most := many(num(1), 1997)
+	for body, want := range map[string]string{
+		"Push 1; Add 0; Push 1; Add 0; Builtin 1 length; Return": "1999", "Push 1; Add 0; Push 1; Add 0; Push 1; Add 0; Builtin 1 length; Return": "error system_limit", "Push {}; Add 0; Push [1]; Add 0; Builtin 1 length; Return": "error system_limit", "Push [1]; Add 0; Builtin 1 length; Return": "1998",
+		"Push 1; Add 0; Push 1; Add 0; Push []; Push {1, 2}; Add 1; Push 3; Add 1; Store 0; Drop; Load 0; Return": "[{1, 2}, 3]", "Push 1; Add 0; Push 1; Add 0; Cut 0; Push []; Push {1, 2}; Add 0; Push 3; Add 0; Return": "[{1, 2}, 3]", "Push []; Push 1; Add 1; Drop; Dup; Push 1; Add 1; Push 1; Add 1; Push 1; Add 1; Drop; Return": "error system_limit",
+		"Try on; Push 1; Add 0; Push {1, 2}; Add 0; Fail 0 no\non: Cut 1; Push 1; Add 0; Builtin 1 length; Return": "1999",
+	} {
+		if a := ran(t, codeOf("f/1 1: "+body), most); shown(a) != want {
+			t.Error(body, a.Class, len(a.V.Kids))
+		}
+	}
+	eachDoes(t, doing{"Push []; Push " + shownTerm(nest(num(1), 98)) + "; Add 1; Push 1; Add 1; Builtin 1 length; Tuple 2; Return", "a", "{a, 2}", 1}, doing{"Push []; Push 1; Add 1; Push " + shownTerm(nest(num(1), 99)) + "; Add 1; Builtin 1 length; Tuple 2; Return", "a", "error system_limit", 0})
+}
