@@ -73,8 +73,14 @@ func tablesByWords(code impl.Code) bool {
 
 // verifyByWords is a second reading of 5.3.
 func verifyByWords(code impl.Code) (int, int) {
+	_, wrong, at := rulesByWords(code)
+	return wrong, at
+}
+
+// rulesByWords is the rules as they are behind the last instruction, or the first that is wrong.
+func rulesByWords(code impl.Code) (*rules, int, int) {
 	if !tablesByWords(code) {
-		return impl.ErrBad, 0
+		return nil, impl.ErrBad, 0
 	}
 	v := &rules{code: code, reached: make([]*situation, len(code.Ins))}
 	for k, f := range code.Fns {
@@ -85,11 +91,11 @@ func verifyByWords(code impl.Code) (int, int) {
 		v.reached[v.begin] = &situation{values: f.Arity}
 		for i := v.begin; i < v.end; i++ {
 			if !v.right(i) {
-				return impl.ErrCode, i
+				return v, impl.ErrCode, i
 			}
 		}
 	}
-	return impl.OK, 0
+	return v, impl.OK, 0
 }
 
 // rules is the rules 1 to 9 at the instructions of a block.
