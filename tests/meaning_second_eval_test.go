@@ -34,6 +34,8 @@ type second struct {
 	fuel  int
 	used  int
 	held  map[int][]string
+	life  *being // which process works it out, if one does
+	mixed bool   // something in it was not pure
 }
 
 // evalByWords is Eval of a tree, a function and arguments that are right, with a fuel that is.
@@ -71,6 +73,9 @@ func isYesOrNo(t impl.Term) bool { return isYes(t) || same(t, atom("false")) }
 
 // count is a step.
 func (s *second) count() *upward {
+	if s.life != nil {
+		return s.life.count()
+	}
 	if s.used+1 > s.fuel {
 		return &upward{class: impl.AnFuel}
 	}
@@ -84,8 +89,19 @@ func (s *second) call(name string, args []impl.Term) (impl.Term, *upward) {
 			return s.enter(p.kids, known{}, args)
 		}
 	}
+	return s.there(name, args)
+}
+
+// there is what a function of 4.3 answers; of those of processes the process knows it.
+func (s *second) there(name string, args []impl.Term) (impl.Term, *upward) {
 	if up := s.count(); up != nil {
 		return impl.Term{}, up
+	}
+	if isNamed(processNames, name, len(args)) {
+		s.mixed = true
+		if s.life != nil {
+			return s.life.does(name, args)
+		}
 	}
 	return thereByWords(name, args)
 }
@@ -173,8 +189,13 @@ func (s *second) eval(p *part, env known) (impl.Term, known, *upward) {
 		}
 		return v, env, up
 	case impl.NdReceive:
-		_, _, up := s.row(p.kids[len(p.kids)-2*p.N:len(p.kids)-p.N], env)
-		return impl.Term{}, env, cmp.Or(up, goesError("not_pure"))
+		s.mixed = true
+		row, _, up := s.row(p.kids[len(p.kids)-2*p.N:len(p.kids)-p.N], env)
+		if s.life == nil || up != nil {
+			return impl.Term{}, env, cmp.Or(up, goesError("not_pure"))
+		}
+		v, up := s.life.receive(p, append(row, atom("infinity"))[0], env)
+		return v, env, up
 	case impl.NdTry:
 		v, up := s.try(p, env)
 		return v, env, up
@@ -235,6 +256,10 @@ func (s *second) made(p *part, row []impl.Term) (impl.Term, *upward) {
 	case impl.NdUn:
 		return unaryByWords(p.S, row[0])
 	case impl.NdSend:
+		s.mixed = true
+		if s.life != nil {
+			return s.life.send(row[0], row[1])
+		}
 		return impl.Term{}, goesError("not_pure")
 	case impl.NdCall:
 		return s.call(p.S, row)
@@ -271,10 +296,7 @@ func (s *second) remote(p *part, args []impl.Term) (impl.Term, *upward) {
 	if isExportedIn(s.all, name, len(args)) {
 		return s.call(name, args)
 	}
-	if up := s.count(); up != nil {
-		return impl.Term{}, up
-	}
-	return thereByWords(name, args)
+	return s.there(name, args)
 }
 
 func (s *second) heldNames(p *part) []string {
