@@ -208,6 +208,10 @@ func TestWhatEndsWithAProcess(t *testing.T) {
 	tells(t, "main() -> tab_new(t, set), exit(x). again() -> say(try tab_size(t) catch C:V -> {C, V} end), say(tab_new(t, bag)).", "spawn main; run 1; spawn again; run 1",
 		"1 from #p0; 1 ends x; 2 from #p0; 2: {error, badarg}; 2: true; 2 ends normal")
 	shows(t, "main() -> waits(). loops() -> loops()."+waiters, "spawn main; spawn loops; run 2; send 1 a; exit 1 x; exit 2 x; send 1 b; send 2 c; run 9; tick 3", "")
+	// Ended by itself in its own turn, with a name, a table and a letter of its own.
+	own := "main() -> register(me, self()), tab_new(t, set), me ! x, send_after(1, me, y), exit(self(), kill), say(more). again() -> say(whereis(me)), say(try tab_size(t) catch C:V -> V end), say(try me ! x catch C:V -> V end)."
+	tells(t, own, "spawn main; run 1; tick 1; spawn again; run 9", "1 from #p0; 1 ends killed; @1 2 from #p0; @1 2: undefined; @1 2: badarg; @1 2: badarg; @1 2 ends normal")
+	tells(t, "main() -> register(me, self()), exit(whereis(me), why), say(more).", "spawn main; run 9", "1 from #p0; 1 ends why")
 	// A name of the one who ends is gone ahead of those who are told.
 	tells(t, "main() -> P = spawn(fun() -> register(it, self()), waits() end), lots(20), monitor(P), exit(P, why), receive X -> say({X, whereis(it), is_alive(P)}) end. lots(0) -> 0; lots(N) -> lots(N - 1)."+waiters, "spawn main; run 9",
 		"1 from #p0; 2 from #p1; 2 ends why; 1: {{down, #r1, #p2, why}, undefined, false}; 1 ends normal")

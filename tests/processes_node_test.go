@@ -2,9 +2,11 @@ package tests
 
 import (
 	"fmt"
+	"runtime"
 	"slices"
 	"strings"
 	"testing"
+	"time"
 
 	"loop.example/g00019/impl"
 )
@@ -235,6 +237,42 @@ func TestProcessesAreNotPureElsewhereP7(t *testing.T) {
 		b, wrongToo := impl.Run(code, name, args, 1000)
 		if wrong != impl.OK || wrongToo != impl.OK || shown(a) != want || !sameAnswer(a, b) {
 			t.Error(name, shown(a), shown(b))
+		}
+	}
+}
+
+// When NodeRun answers, all goroutines of its processes have ended: of those who wait, are ready, had no turn yet, and have ended.
+func TestGoroutinesHaveEnded(t *testing.T) {
+	before := runtime.NumGoroutine()
+	for range 50 {
+		if code := runCode(t, plainText, actsOf("spawn loops; spawn waits; spawn waits; spawn open; spawn closed; run 9; exit 2 x; spawn loops; spawn waits")); code != impl.OK {
+			t.Fatal(code)
+		}
+	}
+	for range 100 {
+		if runtime.NumGoroutine() <= before {
+			return
+		}
+		time.Sleep(10 * time.Millisecond) // the last ones may just be on their way out
+	}
+	t.Error(before, "goroutines before,", runtime.NumGoroutine(), "behind")
+}
+
+// Nodes run side by side, and one text again and again, answer as one alone does.
+func TestNodesSideBySide(t *testing.T) {
+	acts := actsOf("spawn main; run 200")
+	text := "module m. main() -> [spawn(fun() -> works(N) end) || N <- [9, 30, 2, 44]], works(50). works(0) -> say(self()); works(N) -> say(N), works(N - 1)."
+	want := nodeRun(t, text, acts)
+	done := make(chan impl.Report)
+	for range 8 {
+		go func() {
+			r, _ := impl.NodeRun(text, acts)
+			done <- r
+		}()
+	}
+	for range 8 {
+		if r := <-done; !sameReport(r, want) {
+			t.Error(reportText(r))
 		}
 	}
 }
