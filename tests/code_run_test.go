@@ -10,18 +10,28 @@ import (
 
 // runner runs sound code as 5.1 and 6 say, by their words: a second reading of Run, against which Eval is held, too.
 type runner struct {
-	code  impl.Code
-	fuel  int
-	used  int
-	depth int         // how many frames there are
-	begun []impl.Call // all blocks that were begun
+	shelf  *shelf // where it finds code
+	life   *being // which process runs it, if one does
+	fuel   int
+	used   int
+	frames []*framed
+	begun  []impl.Call // all blocks that were begun
+}
+
+// shelf is all code that was ever loaded, by its number.
+type shelf []*shelved
+
+type shelved struct {
+	impl.Code
+	number int
+	is     string // current, old or gone
 }
 
 // runByWords is what a block with a Name answers, and the first 200 blocks that it begins.
 func runByWords(code impl.Code, name string, args []impl.Term, fuel int) (impl.Answer, []impl.Call) {
-	r := &runner{code: code, fuel: fuel}
-	at := slices.IndexFunc(code.Fns, func(f impl.CodeFn) bool { return f.Name == name && f.Arity == len(args) })
-	v, up := r.block(at, nil, args)
+	c := &shelved{Code: code, is: "current"}
+	r := &runner{shelf: &shelf{c}, fuel: fuel}
+	v, up := r.block(c, c.named(name, len(args)), nil, args)
 	calls := r.begun[:min(len(r.begun), 200)]
 	if up != nil {
 		return impl.Answer{Class: up.class, V: up.v, Used: r.used}, calls
@@ -29,7 +39,40 @@ func runByWords(code impl.Code, name string, args []impl.Term, fuel int) (impl.A
 	return impl.Answer{V: v, Used: r.used}, calls
 }
 
+// module is the code of a module that is current or old.
+func (s *shelf) module(name, is string) *shelved {
+	i := slices.IndexFunc(*s, func(c *shelved) bool { return c.Name == name && c.is == is })
+	if i < 0 {
+		return nil
+	}
+	return (*s)[i]
+}
+
+// of is the code of which a Fun is, if that is there, and the place that the Fun tells.
+func (s *shelf) of(f impl.Term) (*shelved, int) {
+	for _, c := range *s {
+		if f.Kind == impl.TmFun && f.N >= 2000*c.number && f.N < 2000*c.number+2000 && c.is != "gone" {
+			return c, f.N - 2000*c.number
+		}
+	}
+	return nil, 0
+}
+
+// named is the number of the block with that Name and Arity, -1 without one.
+func (c *shelved) named(name string, arity int) int {
+	return slices.IndexFunc(c.Fns, func(f impl.CodeFn) bool { return f.Name != "" && f.Name == name && f.Arity == arity })
+}
+
+// made is the Fun that code makes, which tells whose it is.
+func (c *shelved) made(f impl.Term) impl.Term {
+	f.N += 2000 * c.number
+	return f
+}
+
 func (r *runner) count(n int) *upward {
+	if r.life != nil {
+		return r.life.steps(n)
+	}
 	if r.used+n > r.fuel {
 		r.used = r.fuel
 		return &upward{class: impl.AnFuel}
@@ -38,31 +81,57 @@ func (r *runner) count(n int) *upward {
 	return nil
 }
 
-// framed is a frame: its slots, its stack, its handlers, and where it is.
+// framed is a frame: the code that it runs, its slots, its stack, its handlers, and where it is.
 type framed struct {
 	*runner
+	code     *shelved
+	number   int // of its block
 	slots    []impl.Term
 	stack    []impl.Term
 	handlers []handlerByWords
 	at       int
+	born     bool // it is among the frames
 	ended    bool
 }
 
-func (r *runner) block(k int, held, args []impl.Term) (impl.Term, *upward) {
+func (r *runner) block(c *shelved, k int, held, args []impl.Term) (impl.Term, *upward) {
+	return r.frame(c, k, held, args).run()
+}
+
+func (r *runner) frame(c *shelved, k int, held, args []impl.Term) *framed {
+	f := &framed{runner: r, code: c, number: k, slots: slices.Clone(held), stack: slices.Clone(args), at: c.Fns[k].At}
+	for len(f.slots) < c.Fns[k].Slots {
+		f.slots = append(f.slots, num(0))
+	}
+	return f
+}
+
+// bear puts a frame on the others, unless it is there.
+func (f *framed) bear() {
+	if !f.born {
+		f.frames = append(f.frames, f)
+	}
+	f.born = true
+}
+
+// run begins a frame, and runs it to its end.
+func (f *framed) run() (impl.Term, *upward) {
+	r := f.runner
 	if up := r.count(1); up != nil {
 		return impl.Term{}, up
 	}
-	r.depth++
-	defer func() { r.depth-- }()
-	r.begun = append(r.begun, impl.Call{Name: r.code.Fns[k].Name, Node: r.code.Fns[k].Node, Depth: r.depth})
-	f := &framed{runner: r, slots: slices.Clone(held), stack: slices.Clone(args), at: r.code.Fns[k].At}
-	for len(f.slots) < r.code.Fns[k].Slots {
-		f.slots = append(f.slots, num(0))
-	}
+	f.bear()
+	defer func() { r.frames = r.frames[:len(r.frames)-1] }()
+	b := f.code.Fns[f.number]
+	r.begun = append(r.begun, impl.Call{Name: b.Name, Node: b.Node, Depth: len(r.frames)})
 	for !f.ended {
-		n := r.code.Ins[f.at]
+		n, at, stack := f.code.Ins[f.at], f.at, f.stack
 		f.at++
 		up := f.step(n, opRows[n.Op].name)
+		if up != nil && up.class == turnOver { // the instruction is begun anew in the next turn
+			f.at, f.stack = at, stack
+			up = r.life.rest()
+		}
 		if up == nil {
 			continue
 		}
@@ -107,6 +176,9 @@ func (f *framed) step(n impl.Ins, name string) *upward {
 	case "Step":
 		return f.count(n.A)
 	case "Push":
+		if n.V.Kind == impl.TmFun {
+			n.V = f.code.made(n.V)
+		}
 		f.push(n.V)
 	case "Load":
 		f.push(f.slots[n.C])
@@ -218,8 +290,7 @@ func (f *framed) step2(n impl.Ins, name string) *upward {
 			f.at = n.A
 		}
 	default: // OpSend, OpMark, OpLetter, OpTaken
-		f.pop(map[string]int{"Send": 2, "Mark": 1}[name])
-		return goesError("not_pure")
+		return f.letters(n, name, f.pop(map[string]int{"Send": 2, "Mark": 1}[name]))
 	}
 	return nil
 }
@@ -417,22 +488,22 @@ func (f *framed) call(n impl.Ins, name string) (impl.Term, *upward) {
 	fns := f.code.Fns
 	switch name {
 	case "Call":
-		return f.block(n.C, nil, f.pop(fns[n.C].Arity))
+		return f.block(f.code, n.C, nil, f.pop(fns[n.C].Arity))
 	case "Builtin":
 		return f.there(n.S, f.pop(n.C))
 	case "Remote":
 		args := f.pop(n.C)
-		s, own := strings.CutPrefix(n.S, f.code.Name+":")
-		k := slices.IndexFunc(fns, func(b impl.CodeFn) bool { return b.Export && b.Name == s && b.Arity == n.C })
-		switch {
-		case own && k >= 0:
-			return f.block(k, nil, args)
-		case own && isNamed(guardNames+plainNames+processNames, s, n.C):
-			return f.there(s, args)
+		module, name, _ := strings.Cut(n.S, ":")
+		c := f.shelf.module(module, "current")
+		if c == nil {
+			return impl.Term{}, goesError("undef")
 		}
-		return impl.Term{}, goesError("undef")
+		if k := c.named(name, n.C); k >= 0 && c.Fns[k].Export {
+			return f.block(c, k, nil, args)
+		}
+		return f.thereOrUndef(name, args)
 	case "Fun":
-		return fun(fns[n.C].Node, f.pop(fns[n.C].Held)...), nil
+		return f.code.made(fun(fns[n.C].Node, f.pop(fns[n.C].Held)...)), nil
 	}
 	args := f.pop(n.C)
 	return f.apply(f.pop(1)[0], args)
@@ -442,35 +513,56 @@ func (r *runner) there(name string, args []impl.Term) (impl.Term, *upward) {
 	if up := r.count(1); up != nil {
 		return impl.Term{}, up
 	}
+	if r.life != nil && isNamed(processNames, name, len(args)) {
+		return r.life.does(name, args)
+	}
 	return thereByWords(name, args)
 }
 
-func (r *runner) apply(v impl.Term, args []impl.Term) (impl.Term, *upward) {
-	for _, ref := range r.code.Refers {
-		if v.Kind != impl.TmFun || v.N != ref.Node || len(v.Kids) > 0 {
-			continue
+func (r *runner) thereOrUndef(name string, args []impl.Term) (impl.Term, *upward) {
+	if !isNamed(guardNames+plainNames+processNames, name, len(args)) {
+		return impl.Term{}, goesError("undef")
+	}
+	return r.there(name, args)
+}
+
+// refers is the function that a Fun of code refers to.
+func (c *shelved) refers(f impl.Term, place int) (impl.CodeRef, bool) {
+	for _, ref := range c.Refers {
+		if ref.Node == place && len(f.Kids) == 0 {
+			return ref, true
 		}
+	}
+	return impl.CodeRef{}, false
+}
+
+// fun is the number of the block that a Fun of code is, -1 without one.
+func (c *shelved) fun(f impl.Term, place int) int {
+	return slices.IndexFunc(c.Fns, func(b impl.CodeFn) bool { return b.Name == "" && b.Node == place && b.Held == len(f.Kids) })
+}
+
+func (r *runner) apply(v impl.Term, args []impl.Term) (impl.Term, *upward) {
+	c, place := r.shelf.of(v)
+	if c == nil {
+		return impl.Term{}, goesWith("badfun", v)
+	}
+	if ref, is := c.refers(v, place); is {
 		if ref.Arity != len(args) {
 			return impl.Term{}, goesWith("badarity", v)
 		}
-		k := slices.IndexFunc(r.code.Fns, func(b impl.CodeFn) bool { return b.Name == ref.Name && b.Arity == ref.Arity })
-		switch {
-		case k >= 0:
-			return r.block(k, nil, args)
-		case isNamed(guardNames+plainNames+processNames, ref.Name, ref.Arity):
-			return r.there(ref.Name, args)
+		if k := c.named(ref.Name, ref.Arity); k >= 0 {
+			return r.block(c, k, nil, args)
 		}
-		return impl.Term{}, goesError("undef")
+		return r.thereOrUndef(ref.Name, args)
 	}
-	for k, b := range r.code.Fns {
-		if v.Kind == impl.TmFun && b.Name == "" && b.Node == v.N && b.Held == len(v.Kids) {
-			if b.Arity != len(args) {
-				return impl.Term{}, goesWith("badarity", v)
-			}
-			return r.block(k, v.Kids, args)
-		}
+	switch k := c.fun(v, place); {
+	case k < 0:
+		return impl.Term{}, goesWith("badfun", v)
+	case c.Fns[k].Arity != len(args):
+		return impl.Term{}, goesWith("badarity", v)
+	default:
+		return r.block(c, k, v.Kids, args)
 	}
-	return impl.Term{}, goesWith("badfun", v)
 }
 
 // P7: what Compile makes, run, answers what Eval answers, step by step; so says the second reading, too.

@@ -10,16 +10,18 @@ import (
 	"loop.example/g00019/impl"
 )
 
-// actsOf reads acts as these tests write them, with a ; between each two: spawn main [1, 2]; send 1 hi; exit 1 kill; tick 5; run 9.
+// actsOf reads acts as these tests write them, with a ; between each two: spawn main [1, 2]; send 1 hi; exit 1 kill; tick 5; run 9; load 1; purge m; soft m.
 func actsOf(text string) []impl.Act {
 	var acts []impl.Act
 	for _, one := range strings.Split(text, ";") {
 		words := strings.SplitN(strings.TrimSpace(one), " ", 3)
-		kind := 1 + slices.Index([]string{"spawn", "send", "exit", "tick", "run"}, words[0])
+		kind := 1 + slices.Index([]string{"spawn", "send", "exit", "tick", "run", "load", "purge", "soft"}, words[0])
 		a := impl.Act{Kind: kind}
 		switch kind {
 		case impl.AcSpawn:
 			a.Name, a.V = words[1], list()
+		case impl.AcPurge, impl.AcSoft:
+			a.Name = words[1]
 		case 0:
 			panic("no act: " + one)
 		default:
@@ -33,12 +35,15 @@ func actsOf(text string) []impl.Act {
 	return acts
 }
 
-// told is the events of a report, as these tests write them: 1 from #p0; 1: it says; @5 1 ends normal.
+// told is the events of a report, as these tests write them: 1 from #p0; 1: it says; @5 1 ends normal; loads 1; keeps m; purges 0.
 func told(r impl.Report) string {
 	var all []string
 	for _, e := range r.Events {
 		v, _ := impl.TermShow(e.V)
-		one := fmt.Sprint(e.Pid) + []string{" ? ", " from ", ": ", " ends "}[e.Kind] + v
+		one := fmt.Sprint(e.Pid) + []string{" ? ", " from ", ": ", " ends ", " loads ", " keeps ", " purges "}[e.Kind] + v
+		if e.Kind >= impl.EvLoad {
+			one = strings.TrimPrefix(one, "0 ")
+		}
 		if e.Now > 0 {
 			one = fmt.Sprintf("@%d %s", e.Now, one)
 		}
@@ -91,6 +96,12 @@ func reportText(r impl.Report) string {
 func nodeRun(t *testing.T, text string, acts []impl.Act) impl.Report {
 	t.Helper()
 	tree := parsed(t, text)
+	return happens(t, []string{text}, acts, func(room []impl.Act) (impl.Report, int) { return impl.NodeRun(text, room) }, nodeByWords(tree, acts))
+}
+
+// happens is what becomes of a node by a face, as nodeRun asks it; words is the report of the second reading.
+func happens(t *testing.T, texts []string, acts []impl.Act, face func([]impl.Act) (impl.Report, int), words impl.Report) impl.Report {
+	t.Helper()
 	given := make([]impl.Term, 0, len(acts))
 	room := make([]impl.Act, 0, len(acts)+2)
 	for _, a := range acts {
@@ -102,20 +113,20 @@ func nodeRun(t *testing.T, text string, acts []impl.Act) impl.Report {
 		a.V = given[i]
 		room = append(room, a)
 	}
-	r, code := impl.NodeRun(text, room)
+	r, code := face(room)
 	if code != impl.OK {
-		t.Fatalf("%s\ncode %d", text, code)
+		t.Fatalf("%s\ncode %d", strings.Join(texts, "\n"), code)
 	}
 	for i, a := range room[:cap(room)] {
 		if i < len(acts) && (a.Kind != acts[i].Kind || a.N != acts[i].N || a.Name != acts[i].Name || !same(a.V, acts[i].V)) || i >= len(acts) && (a.Kind != 0 || a.V.Kind != 0) {
-			t.Fatalf("%s\nact %d was written into", text, i)
+			t.Fatalf("%s\nact %d was written into", strings.Join(texts, "\n"), i)
 		}
 	}
 	if !sameRow(wideRow(given), before) {
-		t.Fatalf("%s\nwrites into the acts' terms, or behind them", text)
+		t.Fatalf("%s\nwrites into the acts' terms, or behind them", strings.Join(texts, "\n"))
 	}
-	if words := nodeByWords(tree, acts); !sameReport(r, words) {
-		t.Fatalf("%s\nof %s is\n%s\nby the words\n%s", text, actsText(acts), reportText(r), reportText(words))
+	if !sameReport(r, words) {
+		t.Fatalf("%s\nof %s is\n%s\nby the words\n%s", strings.Join(texts, "\n"), actsText(acts), reportText(r), reportText(words))
 	}
 	standsAlone(t, given, r)
 	holdsTogether(t, r)
@@ -126,7 +137,7 @@ func actsText(acts []impl.Act) string {
 	var all []string
 	for _, a := range acts {
 		v, _ := impl.TermShow(a.V)
-		all = append(all, strings.TrimSpace(fmt.Sprintf("%s %d %s %s", []string{"?", "spawn", "send", "exit", "tick", "run"}[a.Kind], a.N, a.Name, v)))
+		all = append(all, strings.TrimSpace(fmt.Sprintf("%s %d %s %s", []string{"?", "spawn", "send", "exit", "tick", "run", "load", "purge", "soft"}[a.Kind], a.N, a.Name, v)))
 	}
 	return strings.Join(all, "; ")
 }

@@ -8,9 +8,10 @@ import (
 )
 
 // world is a second reading of 10: a node as plain lists, whose processes work out the tree (4.2) as the second
-// reading of it does, and stop where a turn is over.
+// reading of it does, and stop where a turn is over. (That of 11 runs code.)
 type world struct {
 	tree     []impl.Node
+	shelf    *shelf
 	now      int
 	since    int
 	events   []impl.Event
@@ -27,6 +28,7 @@ type world struct {
 
 type being struct {
 	second
+	runner  *runner
 	w       *world
 	pid     int
 	prio    int
@@ -60,26 +62,35 @@ type sharedTable struct {
 // nodeByWords is NodeRun of acts that are some.
 func nodeByWords(tree []impl.Node, acts []impl.Act) impl.Report {
 	w := &world{tree: tree}
+	_, parts := partsOfTree(tree)
 	for _, a := range acts {
-		switch a.Kind {
-		case impl.AcSpawn:
-			_, parts := partsOfTree(tree)
-			if isDefinedIn(parts, a.Name, len(a.V.Kids)) && w.living() < 60 {
-				w.bear(0, func(s *second) (impl.Term, *upward) { return s.call(a.Name, a.V.Kids) })
-			}
-		case impl.AcSend:
-			w.give(a.N, a.V)
-		case impl.AcExit:
-			w.signal(a.N, 0, false, a.V)
-			w.endAll()
-		case impl.AcTick:
-			w.tick(w.now + a.N)
-		case impl.AcRun:
-			for range a.N {
-				w.oneTurn()
-			}
+		w.act(a)
+		if a.Kind == impl.AcSpawn && isDefinedIn(parts, a.Name, len(a.V.Kids)) && w.living() < 60 {
+			w.bear(0, func(s *second) (impl.Term, *upward) { return s.call(a.Name, a.V.Kids) })
 		}
 	}
+	return w.over()
+}
+
+// act is what happens by an act that is no AcSpawn.
+func (w *world) act(a impl.Act) {
+	switch a.Kind {
+	case impl.AcSend:
+		w.give(a.N, a.V)
+	case impl.AcExit:
+		w.signal(a.N, 0, false, a.V)
+		w.endAll()
+	case impl.AcTick:
+		w.tick(w.now + a.N)
+	case impl.AcRun:
+		for range a.N {
+			w.oneTurn()
+		}
+	}
+}
+
+// over is the report when all is over.
+func (w *world) over() impl.Report {
 	for _, b := range w.all {
 		b.stop()
 	}
@@ -141,7 +152,9 @@ func (w *world) event(kind, pid int, v impl.Term) {
 func (w *world) bear(by int, work func(s *second) (impl.Term, *upward)) *being {
 	b := &being{w: w, pid: len(w.all) + 1, prio: 1}
 	b.second = second{held: map[int][]string{}, life: b}
-	b.whole, b.all = partsOfTree(w.tree)
+	if w.tree != nil {
+		b.whole, b.all = partsOfTree(w.tree)
+	}
 	b.next, b.stop = iter.Pull(func(yield func(bool) bool) {
 		b.pause = yield
 		_, up := work(&b.second)
@@ -362,15 +375,24 @@ func (b *being) send(to, letter impl.Term) (impl.Term, *upward) {
 
 func isTime(t impl.Term) bool { return t.Kind == impl.TmInt && between(t.N, 0, 1000000000) }
 
-func (b *being) receive(p *part, time impl.Term, env known) (impl.Term, *upward) {
+// mark begins a receive.
+func (b *being) mark(time impl.Term) *upward {
 	w := b.w
 	if !isTime(time) && !same(time, atom("infinity")) {
-		return time, goesError("badarg")
+		return goesError("badarg")
 	}
 	b.save = 0
 	w.dues = slices.DeleteFunc(w.dues, func(d dueThing) bool { return d.ref == 0 && d.by == b.pid })
 	if isTime(time) {
 		w.dues = append(w.dues, dueThing{at: w.now + time.N, by: b.pid})
+	}
+	return nil
+}
+
+func (b *being) receive(p *part, time impl.Term, env known) (impl.Term, *upward) {
+	w := b.w
+	if up := b.mark(time); up != nil {
+		return time, up
 	}
 	for {
 		if up := b.count(); up != nil {
@@ -411,13 +433,18 @@ func (b *being) take(clauses []*part, letter impl.Term, env known) (impl.Term, b
 			return letter, false, up
 		}
 		if holds {
-			b.save--
-			b.letters = slices.Delete(slices.Clone(b.letters), b.save, b.save+1)
+			b.takeOut()
 			v, _, up := b.last(c.kids[2].kids, inner)
 			return v, true, up
 		}
 	}
 	return letter, false, nil
+}
+
+// takeOut takes the letter ahead of the save point out.
+func (b *being) takeOut() {
+	b.save--
+	b.letters = slices.Delete(slices.Clone(b.letters), b.save, b.save+1)
 }
 
 // kindsOfArguments is of each function of processes the Kinds of its arguments; 0 is any.
@@ -471,13 +498,18 @@ func (b *being) does(name string, args []impl.Term) (impl.Term, *upward) {
 
 func (b *being) spawn(name string, f impl.Term) (impl.Term, *upward) {
 	w := b.w
-	if !b.isToRun(f) {
+	if w.shelf == nil && !b.isToRun(f) || w.shelf != nil && !w.shelf.isToRun(f) {
 		return f, goesError("badarg")
 	}
 	if w.living() >= 60 {
 		return f, goesError("system_limit")
 	}
-	child := w.bear(b.pid, func(s *second) (impl.Term, *upward) { return s.apply(f, nil) })
+	var child *being
+	if w.shelf == nil {
+		child = w.bear(b.pid, func(s *second) (impl.Term, *upward) { return s.apply(f, nil) })
+	} else {
+		child = w.bearOf(b.pid, f)
+	}
 	switch name {
 	case "spawn_link":
 		w.join(b.pid, child.pid)
