@@ -3,6 +3,7 @@ package tests
 import (
 	"fmt"
 	"math/rand"
+	"slices"
 	"strings"
 	"testing"
 
@@ -356,6 +357,47 @@ func TestDiffOfTextsP17(t *testing.T) {
 		if got := diff(t, old, code(forms)); got != want {
 			t.Errorf("%s\n%s\nnot %s", forms, got, want)
 		}
+	}
+}
+
+// roomyCode is a copy of code with room behind each of its lists, in which something stands.
+func roomyCode(c impl.Code) impl.Code {
+	c = copiedCode(c)
+	for i := range c.Ins {
+		c.Ins[i].V.Kids = roomyRow(c.Ins[i].V.Kids)
+	}
+	c.Fns = append(c.Fns, impl.CodeFn{Name: "room", Arity: 9})[:len(c.Fns)]
+	c.Refers = append(c.Refers, impl.CodeRef{Node: 9, Name: "room"})[:len(c.Refers)]
+	c.Ins = append(c.Ins, impl.Ins{Op: 99, V: num(9)})[:len(c.Ins)]
+	return c
+}
+
+// wideCode is code with what stands behind each of its lists.
+func wideCode(c impl.Code) impl.Code {
+	c.Fns, c.Refers, c.Ins = slices.Clone(c.Fns[:len(c.Fns)+1]), slices.Clone(c.Refers[:len(c.Refers)+1]), slices.Clone(c.Ins[:len(c.Ins)+1])
+	for i := range c.Ins {
+		c.Ins[i].V.Kids = wideRow(c.Ins[i].V.Kids)
+	}
+	return c
+}
+
+// Nothing is written into the codes, nor into the room behind them; what is answered is new.
+func TestDiffWritesNothingP17(t *testing.T) {
+	tree := parsed(t, "module m. export f/1. f(X) -> g([X, fun g/1, fun() -> fun() -> {X, [1, {a, \"bc\"}]} end end]). g(X) -> [1, 2 | X].")
+	old := roomyCode(compiled(t, tree))
+	new := roomyCode(compiled(t, parsed(t, "module m. g(X) -> [1, 2 | X]. f(X) -> g([X, fun g/1, fun() -> fun() -> {X, [1, {a, \"bd\"}]} end end]).")))
+	olds, news := wideCode(old), wideCode(new)
+	row, wrong := impl.Diff(old, new)
+	if wrong != impl.OK || entries(row) != "f/1 changed; g/1 same" {
+		t.Error(entries(row), wrong)
+	}
+	if !sameCode(wideCode(old), olds) || !sameCode(wideCode(new), news) {
+		t.Error("writes into the codes or behind them")
+	}
+	again, _ := impl.Diff(old, new)
+	again[0].Name = "other"
+	if more, _ := impl.Diff(old, new); row[0].Name != "f" || more[0].Name != "f" {
+		t.Error("answers share memory")
 	}
 }
 

@@ -123,6 +123,24 @@ func TestFunsOfNoCodeP17(t *testing.T) {
 	)
 }
 
+// In a node of one text nothing but that was loaded: Funs of other numbers are none.
+func TestFunsInOneTextP17(t *testing.T) {
+	text := "module m. main() -> receive F -> say([try F() catch C:V -> {C, V} end, try spawn(F) catch C:V -> {C, V} end]), main() end. makes() -> fun() -> one end."
+	_, funs := funPlaces(t, text)
+	for _, n := range []int{funs[0], funs[0] + 2000, funs[0] + 4000, funs[0] + 1, impl.MaxInt} {
+		want := fmt.Sprintf("1 from #p0; 1: [{error, {badfun, #f%d{}}}, {error, badarg}]", n)
+		if n == funs[0] {
+			want = "1 from #p0; 2 from #p1; 1: [one, #p2]; 2 ends normal"
+		}
+		acts := actsOf(fmt.Sprintf("spawn main; send 1 #f%d{}; run 9", n))
+		for _, r := range []impl.Report{nodeRun(t, text, acts), changeRun(t, []string{text}, acts)} {
+			if told(r) != want {
+				t.Errorf("%d tells %s, not %s", n, told(r), want)
+			}
+		}
+	}
+}
+
 // Names that are made when the machine runs are chapter 10's: a process's, whichever code it runs.
 func TestNamesWhileRunningP17(t *testing.T) {
 	changing(t, "m. export main/0. main() -> register(a, self()), P = spawn(fun waits/0), register(b, P), a ! one, {b, local} ! two, {b, far} ! three, receive X -> say(X) end, say([whereis(a), whereis(b), node()]). waits() -> receive X -> say({X, one}) end.\nm. export main/0. main() -> 1. waits() -> receive X -> say({X, new}) end.",

@@ -89,6 +89,29 @@ func TestValuesAreCalledP8(t *testing.T) {
 	}
 }
 
+// P8: what is no Fun is none of the block with the Node 0 either, nor is a Fun whose N is more than a Node may be; so says Eval.
+func TestFunsOfNoNodeP8(t *testing.T) {
+	for called, want := range map[string]string{"3": "error {badfun, 3}", "0": "error {badfun, 0}", "#r0": "error {badfun, #r0}", "[]": "error {badfun, []}", "#f0{}": "zero", "#f2000{}": "error {badfun, #f2000{}}", "#f4000{}": "error {badfun, #f4000{}}", "#f2005{}": "error {badfun, #f2005{}}", "#f5{}": "error {badarity, #f5{}}", "#f1000000000000000{}": "error {badfun, #f1000000000000000{}}"} {
+		code := withRefers(codeOf("f/0 0: Push "+called+"; Apply 0; Return\nfun/0 0 0: Push zero; Return"), "5 f/1")
+		code.Fns[0].Node, code.Fns[1].Node = 1, 0
+		steps := 1
+		if want == "zero" {
+			steps = 2
+		}
+		runsCode(t, code, want, steps)
+	}
+	tree := parsed(t, "module m. f(F) -> F(). g() -> fun() -> {fun g/0} end.")
+	for _, kind := range []int{impl.NdFun, impl.NdRefer} {
+		for _, more := range []int{0, 2000, 4000, 1000000000000000 - 2000} {
+			f := []impl.Term{fun(placeOf(t, tree, kind, 0) + more)}
+			a, _ := impl.Eval(tree, "f", f, 50)
+			if b := ranAt(t, compiled(t, tree), f, 50); !sameAnswer(a, b) || (a.Class == impl.AnValue) != (more == 0) {
+				t.Error(kind, more, shown(a), shown(b))
+			}
+		}
+	}
+}
+
 // depths is the blocks that f of such code begins, as "name depth" each, funs by their Nodes.
 func depths(t *testing.T, text string, want string, fuel int, args ...impl.Term) {
 	t.Helper()
